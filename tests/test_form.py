@@ -1,0 +1,151 @@
+"""The form of the package: where the interface stands, and some rules of its Python subset."""
+
+import ast
+import re
+import unittest
+from pathlib import Path
+
+PACKAGE = Path(__file__).resolve().parent.parent / "traymap"
+
+# What has landed of the interface: file, then name and parameters (None for a class).
+INTERFACE = {
+    "errors": {
+        "TrayError": None,
+        "TooMany": None,
+        "NoWay": None,
+        "NoNumber": None,
+        "TooBig": None,
+        "NoText": None,
+        "NoRow": None,
+        "NoName": None,
+    },
+    "crates": {"is_crate": ["thing"], "is_filling": ["crate", "thing"]},
+    "fillings": {
+        "how_many": ["crate", "number"],
+        "all_fillings": ["crate", "number"],
+        "plain": ["crate", "tray"],
+    },
+}
+
+# L17: words that stand nowhere, comments and strings included.
+BARRED_WORDS = (
+    "type typing typing_extensions enum Enum IntEnum StrEnum Flag IntFlag Generic Protocol "
+    "ABC ABCMeta namedtuple NamedTuple TypedDict TYPE_CHECKING abstractmethod"
+).split()
+BARRED_PARTS = ("dataclass", "overload", "contextmanager")
+
+# L8, and the errors of Python's own that may be named.
+BUILTINS = (
+    "len range enumerate zip min max sum abs sorted reversed int str bool list tuple dict set "
+    "isinstance ord repr any all divmod iter next ValueError KeyError IndexError LookupError "
+    "ZeroDivisionError"
+).split()
+
+
+def package_files():
+    """The name, the text and the tree of each file of the package."""
+    files = []
+    for path in sorted(PACKAGE.glob("*.py")):
+        text = path.read_text("utf-8")
+        files.append((path.name, text, ast.parse(text)))
+    return files
+
+
+def bound_names(tree):
+    """All names that a file binds anywhere, and those that it imports."""
+    names = set()
+    for node in ast.walk(tree):
+        if isinstance(node, (ast.FunctionDef, ast.ClassDef)):
+            names.add(node.name)
+        elif isinstance(node, ast.Name) and isinstance(node.ctx, ast.Store):
+            names.add(node.id)
+        elif isinstance(node, ast.arg):
+            names.add(node.arg)
+        elif isinstance(node, ast.alias):
+            names.add(node.asname or node.name)
+        elif isinstance(node, ast.ExceptHandler) and node.name:
+            names.add(node.name)
+    return names
+
+
+class InterfaceTest(unittest.TestCase):
+    def test_defined_in_its_own_file(self):
+        for file_name, listed in INTERFACE.items():
+            tree = ast.parse((PACKAGE / f"{file_name}.py").read_text("utf-8"))
+            defined = {}
+            for node in tree.body:
+                if isinstance(node, ast.FunctionDef):
+                    defined[node.name] = [arg.arg for arg in node.args.args]
+                elif isinstance(node, ast.ClassDef):
+                    defined[node.name] = None
+            for name, parameters in listed.items():
+                with self.subTest(file=file_name, name=name):
+                    self.assertIn(name, defined)
+                    self.assertEqual(defined[name], parameters)
+
+
+class FormTest(unittest.TestCase):
+    def test_the_folder_holds_files_of_code_alone(self):
+        kept = [path.name for path in PACKAGE.iterdir() if path.name != "__pycache__"]
+        for name in kept:
+            self.assertRegex(name, r"^(__init__|__main__|[a-z][a-z0-9_]*)\.py$")
+        self.assertIn("__init__.py", kept)
+
+    def test_signs_and_sizes(self):
+        for name, text, tree in package_files():
+            with self.subTest(file=name):
+                self.assertRegex(text, r"\A[ -~\n]*\Z")
+                lines = text.split("\n")
+                self.assertLessEqual(len(lines), 399)
+                self.assertLessEqual(max(len(line) for line in lines), 120)
+                for node in ast.walk(tree):
+                    if isinstance(node, ast.FunctionDef):
+                        self.assertLessEqual(node.end_lineno - node.lineno + 1, 40, node.name)
+
+    def test_barred_words(self):
+        for name, text, _ in package_files():
+            with self.subTest(file=name):
+                words = re.findall(r"[A-Za-z0-9_]+", text)
+                for word in BARRED_WORDS:
+                    self.assertNotIn(word, words)
+                for part in BARRED_PARTS:
+                    self.assertNotIn(part, text)
+
+    def test_imports_are_of_the_package_alone(self):
+        for name, _, tree in package_files():
+            with self.subTest(file=name):
+                for node in ast.walk(tree):
+                    self.assertNotIsInstance(node, ast.Import)
+                    if isinstance(node, ast.ImportFrom):
+                        self.assertEqual(node.level, 0)
+                        self.assertRegex(node.module, r"^traymap\.[a-z]+$")
+
+    def test_names(self):
+        barred = set(dir(__import__("builtins")))
+        for name, _, tree in package_files():
+            with self.subTest(file=name):
+                for bound in bound_names(tree):
+                    if not re.fullmatch(r"__[a-z]+__", bound):
+                        self.assertRegex(bound, r"^[A-Za-z][A-Za-z0-9_]*$")
+                        self.assertNotIn(bound, barred)
+
+    def test_builtins_that_are_used(self):
+        barred = set(dir(__import__("builtins"))) - set(BUILTINS)
+        for name, _, tree in package_files():
+            with self.subTest(file=name):
+                used = [node.id for node in ast.walk(tree) if isinstance(node, ast.Name)]
+                self.assertEqual([word for word in used if word in barred], [])
+
+    def test_no_float_and_no_per_cent_sign_in_a_string(self):
+        for name, _, tree in package_files():
+            with self.subTest(file=name):
+                for node in ast.walk(tree):
+                    self.assertNotIsInstance(node, ast.Div)
+                    if isinstance(node, ast.Constant):
+                        self.assertNotIsInstance(node.value, (float, complex))
+                        if isinstance(node.value, str):
+                            self.assertNotIn("%", node.value)
+
+
+if __name__ == "__main__":
+    unittest.main()

@@ -1,0 +1,1 @@
+"""Traymap: crates of trays with wells, and ways between them."""
