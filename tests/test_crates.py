@@ -3,40 +3,8 @@
 import copy
 import unittest
 
+from samples import NEITHER, THOUSAND_FIGURES
 from traymap.crates import is_crate, is_filling
-
-THOUSAND_FIGURES = 10 ** 999
-
-# One of each sort that "of anything" names, none of them a crate or a filling.
-NEITHER = (
-    None,
-    True,
-    False,
-    0,
-    1,
-    -1,
-    12,
-    THOUSAND_FIGURES,
-    -THOUSAND_FIGURES,
-    "",
-    "-",
-    "01",
-    "1 2",
-    "a" * 20000,
-    [],
-    [0],
-    [1, 2],
-    [(1, 2)],
-    ((),),
-    ((1,),),
-    ((1, 2), (3,)),
-    ((((((),),),),),),
-    [[[[[[]]]]]],
-    (None,),
-    ("1",),
-    ([],),
-    (None, None),
-)
 
 
 class CrateTest(unittest.TestCase):

@@ -25,6 +25,18 @@ INTERFACE = {
         "all_fillings": ["crate", "number"],
         "plain": ["crate", "tray"],
     },
+    "ways": {
+        "is_way": ["one", "other", "thing"],
+        "turned": ["way", "filling"],
+        "idle": ["crate"],
+        "after": ["first", "second"],
+    },
+    "reading": {"read_off": ["one", "other", "told"]},
+    "counting": {
+        "ways_many": ["one", "other"],
+        "way_at": ["one", "other", "number"],
+        "number_of": ["one", "other", "way"],
+    },
 }
 
 # L17: words that stand nowhere, comments and strings included.
@@ -65,6 +77,17 @@ def bound_names(tree):
             names.add(node.asname or node.name)
         elif isinstance(node, ast.ExceptHandler) and node.name:
             names.add(node.name)
+    return names
+
+
+def defined_names(tree):
+    """The names that a file defines at its top, imports aside."""
+    names = set()
+    for node in tree.body:
+        if isinstance(node, (ast.FunctionDef, ast.ClassDef)):
+            names.add(node.name)
+        elif isinstance(node, ast.Assign):
+            names.update(target.id for target in node.targets)
     return names
 
 
@@ -119,6 +142,46 @@ class FormTest(unittest.TestCase):
                     if isinstance(node, ast.ImportFrom):
                         self.assertEqual(node.level, 0)
                         self.assertRegex(node.module, r"^traymap\.[a-z]+$")
+
+    def test_imports_name_the_file_that_defines(self):
+        defined = {name: defined_names(tree) for name, _, tree in package_files()}
+        for name, _, tree in package_files():
+            for node in ast.walk(tree):
+                if isinstance(node, ast.ImportFrom):
+                    source = node.module.split(".")[1] + ".py"
+                    for alias in node.names:
+                        with self.subTest(file=name, name=alias.name):
+                            self.assertIn(alias.name, defined[source])
+
+    def test_no_file_imports_itself_through_others(self):
+        wanted = {}
+        for name, _, tree in package_files():
+            sources = [node.module for node in ast.walk(tree) if isinstance(node, ast.ImportFrom)]
+            wanted[name] = {source.split(".")[1] + ".py" for source in sources}
+        # Files whose imports are all done are done: what stays behind goes round in a ring.
+        while ready := [name for name in wanted if not wanted[name] & set(wanted)]:
+            for name in ready:
+                del wanted[name]
+        self.assertEqual(wanted, {})
+
+    def test_no_inner_name_is_an_import_or_a_class(self):
+        for name, _, tree in package_files():
+            taken = {alias.name for node in tree.body if isinstance(node, ast.ImportFrom) for alias in node.names}
+            taken |= {node.name for node in tree.body if isinstance(node, ast.ClassDef)}
+            for node in ast.walk(tree):
+                if isinstance(node, ast.FunctionDef):
+                    with self.subTest(file=name, function=node.name):
+                        self.assertEqual(bound_names(node) & taken, set())
+
+    def test_is_stands_beside_none_and_truths_alone(self):
+        for name, _, tree in package_files():
+            for node in ast.walk(tree):
+                if isinstance(node, ast.Compare):
+                    for sign, right in zip(node.ops, node.comparators):
+                        if isinstance(sign, (ast.Is, ast.IsNot)):
+                            with self.subTest(file=name, line=node.lineno):
+                                self.assertIsInstance(right, ast.Constant)
+                                self.assertIn(right.value, (None, True, False))
 
     def test_names(self):
         barred = set(dir(__import__("builtins")))

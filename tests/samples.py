@@ -1,0 +1,101 @@
+"""What several tests take: crates, ways, things, and all ways listed without the package."""
+
+import random
+from itertools import product
+
+THOUSAND_FIGURES = 10 ** 999
+
+# One of each sort that "of anything" names, none of them a crate, a filling or a way.
+NEITHER = (
+    None,
+    True,
+    False,
+    0,
+    1,
+    -1,
+    12,
+    THOUSAND_FIGURES,
+    -THOUSAND_FIGURES,
+    "",
+    "-",
+    "01",
+    "1 2",
+    "a" * 20000,
+    [],
+    [0],
+    [1, 2],
+    [(1, 2)],
+    ((),),
+    ((1,),),
+    ((1, 2), (3,)),
+    ((((((),),),),),),
+    [[[[[[]]]]]],
+    (None,),
+    ("1",),
+    ([],),
+    (None, None),
+)
+
+# What stands for no number of a tray or a well, whatever the crates are.
+NO_NUMBERS = (-1, -2, 13, 60, 100, THOUSAND_FIGURES, -THOUSAND_FIGURES)
+NO_NUMBERS += (True, False, None, "", "0", "1", "a", (), (0,), (0, 1), [], [0])
+
+# Things of every sort, none like another one.
+THINGS = (
+    THOUSAND_FIGURES,
+    -THOUSAND_FIGURES,
+    -1,
+    7,
+    "",
+    "a text",
+    True,
+    False,
+    None,
+    (),
+    (1, (2, [3])),
+    [],
+    [4, [5, "b"]],
+)
+
+# Between any two of these, all ways can be listed.
+TINY_CRATES = ((), (0,), (1,), (2,), (3,), (0, 0), (0, 1), (1, 1), (2, 0), (1, 2), (0, 2, 1), (1, 1, 1))
+
+FULL = (12,) * 60
+LARGE_CRATES = (FULL, tuple(range(13)), (12,), (0,) * 60, (1,) * 60, (0, 12) * 30, (5, 0, 12, 1, 7) * 12)
+
+
+def every_way(one, other):
+    """All ways from the one crate to the other, as their tuples rise."""
+    choices = [
+        [(tray, taken) for tray, many in enumerate(other) for taken in product(range(wells), repeat=many)]
+        for wells in one
+    ]
+    return list(product(*choices))
+
+
+def some_way(chance, one, other):
+    """One way from the one crate to the other, or None where none leads there."""
+    pairs = []
+    for wells in one:
+        trays = [tray for tray, many in enumerate(other) if wells or not many]
+        if not trays:
+            return None
+        tray = chance.choice(trays)
+        pairs.append((tray, tuple(chance.randrange(wells) for _ in range(other[tray]))))
+    return tuple(pairs)
+
+
+def some_ways(seed, ones, others, times=1):
+    """Triples of two crates and a way from the first to the second, for all of them that have one."""
+    chance = random.Random(seed)
+    triples = []
+    for one in ones:
+        for other in others:
+            ways = [some_way(chance, one, other) for _ in range(times)]
+            triples += [(one, other, way) for way in ways if way is not None]
+    return triples
+
+
+def some_filling(chance, crate, tray, things=THINGS):
+    """The tray of the crate with some of the things in its wells."""
+    return (tray, tuple(chance.choice(things) for _ in range(crate[tray])))
