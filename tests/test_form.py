@@ -37,6 +37,20 @@ INTERFACE = {
         "way_at": ["one", "other", "number"],
         "number_of": ["one", "other", "way"],
     },
+    "alike": {"parting": ["one", "way", "other_way"], "crates_alike": ["one", "other"]},
+    "reach": {"onto": ["one", "other", "way"], "one_to_one": ["one", "way"]},
+    "sums": {
+        "joined": ["one", "other"],
+        "from_left": ["one", "other"],
+        "from_right": ["one", "other"],
+        "joined_way": ["way", "other_way"],
+    },
+    "products": {
+        "multiplied": ["one", "other"],
+        "to_left": ["one", "other"],
+        "to_right": ["one", "other"],
+        "paired_way": ["one", "other", "way", "other_way"],
+    },
 }
 
 # L17: words that stand nowhere, comments and strings included.

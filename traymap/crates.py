@@ -1,5 +1,7 @@
 """What a crate is, and what a filling of a crate is."""
 
+from traymap.errors import TooBig
+
 MOST_TRAYS = 60
 MOST_WELLS = 12
 
@@ -25,6 +27,13 @@ def is_crate(thing):
     if not isinstance(thing, tuple) or len(thing) > MOST_TRAYS:
         return False
     return all([is_below(wells, MOST_WELLS + 1) for wells in thing])
+
+
+def bounded(thing):
+    """Tell the crate again, refused where it is none by the bounds."""
+    if not is_crate(thing):
+        raise TooBig("more trays or wells than a crate has")
+    return thing
 
 
 def fits(crate, thing):

@@ -43,3 +43,8 @@ def all_fillings(crate, number):
 def plain(crate, tray):
     """Tell the filling of the tray that has in each well that well's number."""
     return (tray, tuple(range(crate[tray])))
+
+
+def marked(crate, tray, wells):
+    """Tell the filling of the tray that has 1 in each of these wells and 0 in each other one."""
+    return (tray, tuple([1 if well in wells else 0 for well in range(crate[tray])]))
