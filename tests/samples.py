@@ -1,7 +1,12 @@
-"""What several tests take: crates, ways, things, and all ways listed without the package."""
+"""What several tests take: crates, things, ways listed without the package, and what they all assert."""
 
+import copy
 import random
+import unittest
 from itertools import product
+
+from traymap.crates import is_crate
+from traymap.errors import TooBig
 
 THOUSAND_FIGURES = 10 ** 999
 
@@ -99,3 +104,23 @@ def some_ways(seed, ones, others, times=1):
 def some_filling(chance, crate, tray, things=THINGS):
     """The tray of the crate with some of the things in its wells."""
     return (tray, tuple(chance.choice(things) for _ in range(crate[tray])))
+
+
+class MadeCase(unittest.TestCase):
+    """The tests of a function, make, that makes a crate of two or refuses with TooBig."""
+
+    make = None
+
+    def assert_made(self, one, other, due):
+        handed = copy.deepcopy((one, other))
+        told = self.make(one, other)
+        self.assertEqual(repr(told), repr(due))
+        self.assertIs(is_crate(told), True)
+        self.assertEqual((one, other), handed)
+
+    def assert_refused(self, one, other):
+        handed = copy.deepcopy((one, other))
+        with self.assertRaises(TooBig) as caught:
+            self.make(one, other)
+        self.assertIs(type(caught.exception), TooBig)
+        self.assertEqual((one, other), handed)

@@ -130,6 +130,11 @@ class FillingTest(unittest.TestCase):
         for thing in ((0, ()), (-1, ()), (0, (0,)), ()) + NEITHER:
             self.assert_no_filling((), thing)
 
+    def test_of_what_is_no_crate(self):
+        for crate in NEITHER + ((0,) * 61, (13,), (0, True), [0]):
+            for thing in ((0, ()), (0, (0,)), (0, (0,) * 13), (), None):
+                self.assert_no_filling(crate, thing)
+
     def test_of_anything(self):
         for crate in ((0,), (1,), (1, 2), self.CRATE, (12,) * 60):
             for thing in ((),) + NEITHER:

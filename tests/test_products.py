@@ -5,9 +5,7 @@ import random
 import unittest
 from itertools import product
 
-from samples import FULL, LARGE_CRATES, TINY_CRATES, every_way, some_filling, some_way
-from traymap.crates import is_crate
-from traymap.errors import TooBig
+from samples import FULL, LARGE_CRATES, TINY_CRATES, MadeCase, every_way, some_filling, some_way
 from traymap.fillings import how_many
 from traymap.products import multiplied, paired_way, to_left, to_right
 from traymap.ways import after, is_way, turned
@@ -17,38 +15,26 @@ FIRST = ((), (0,), (6,), (3, 1), (0, 0, 2), (0, 1, 2, 3, 4, 5))
 SECOND = ((), (0,), (6,), (2, 5), (1, 0, 4), (6, 5, 4, 3, 2, 1, 0, 1, 2, 3))
 
 
-class MultipliedTest(unittest.TestCase):
-    def assert_multiplied(self, one, other, due):
-        handed = copy.deepcopy((one, other))
-        told = multiplied(one, other)
-        self.assertEqual(repr(told), repr(due))
-        self.assertIs(is_crate(told), True)
-        self.assertEqual((one, other), handed)
-
-    def assert_refused(self, one, other):
-        handed = copy.deepcopy((one, other))
-        with self.assertRaises(TooBig) as caught:
-            multiplied(one, other)
-        self.assertIs(type(caught.exception), TooBig)
-        self.assertEqual((one, other), handed)
+class MultipliedTest(MadeCase):
+    make = staticmethod(multiplied)
 
     def test_a_tray_for_each_pair_rising(self):
-        self.assert_multiplied((1, 2), (3, 0, 5), (4, 1, 6, 5, 2, 7))
-        self.assert_multiplied((3, 0, 5), (1, 2), (4, 5, 1, 2, 6, 7))
-        self.assert_multiplied((2,), (3,), (5,))
-        self.assert_multiplied((0,), (7, 1), (7, 1))
+        self.assert_made((1, 2), (3, 0, 5), (4, 1, 6, 5, 2, 7))
+        self.assert_made((3, 0, 5), (1, 2), (4, 5, 1, 2, 6, 7))
+        self.assert_made((2,), (3,), (5,))
+        self.assert_made((0,), (7, 1), (7, 1))
         for one, other in product(FIRST, SECOND):
-            self.assert_multiplied(one, other, tuple(sum(pair) for pair in product(one, other)))
+            self.assert_made(one, other, tuple(sum(pair) for pair in product(one, other)))
 
     def test_a_crate_without_trays(self):
         for crate in TINY_CRATES + LARGE_CRATES:
-            self.assert_multiplied((), crate, ())
-            self.assert_multiplied(crate, (), ())
+            self.assert_made((), crate, ())
+            self.assert_made(crate, (), ())
 
     def test_exactly_sixty_trays_and_beyond(self):
         for trays in (1, 2, 3, 4, 5, 6, 10, 12, 15, 20, 30, 60):
             one, other = (0,) * trays, (12,) * (60 // trays)
-            self.assert_multiplied(one, other, FULL)
+            self.assert_made(one, other, FULL)
             self.assert_refused(one, other + (12,))
             self.assert_refused(one + (0,), other)
         # No two crates make 61 trays, a prime: so 62 are the fewest beyond 60.
@@ -57,8 +43,8 @@ class MultipliedTest(unittest.TestCase):
 
     def test_exactly_twelve_wells_and_beyond(self):
         for wells in range(13):
-            self.assert_multiplied((wells,), (12 - wells,), (12,))
-            self.assert_multiplied((0, wells), (12 - wells, 0), (12 - wells, 0, 12, wells))
+            self.assert_made((wells,), (12 - wells,), (12,))
+            self.assert_made((0, wells), (12 - wells, 0), (12 - wells, 0, 12, wells))
             if wells:
                 self.assert_refused((wells,), (13 - wells,))
                 self.assert_refused((0, wells), (0, 13 - wells))

@@ -5,9 +5,7 @@ import random
 import unittest
 from itertools import product
 
-from samples import FULL, LARGE_CRATES, TINY_CRATES, every_way, some_filling, some_ways
-from traymap.crates import is_crate
-from traymap.errors import TooBig
+from samples import FULL, LARGE_CRATES, TINY_CRATES, MadeCase, every_way, some_filling, some_ways
 from traymap.fillings import all_fillings, how_many
 from traymap.sums import from_left, from_right, joined, joined_way
 from traymap.ways import after, is_way, turned
@@ -15,38 +13,26 @@ from traymap.ways import after, is_way, turned
 HALVES = ((), (0,), (12,), (3, 1), (0, 0, 2), (12,) * 30, tuple(range(13)), (5, 0, 12, 1, 7) * 6)
 
 
-class JoinedTest(unittest.TestCase):
-    def assert_joined(self, one, other, due):
-        handed = copy.deepcopy((one, other))
-        told = joined(one, other)
-        self.assertEqual(repr(told), repr(due))
-        self.assertIs(is_crate(told), True)
-        self.assertEqual((one, other), handed)
-
-    def assert_refused(self, one, other):
-        handed = copy.deepcopy((one, other))
-        with self.assertRaises(TooBig) as caught:
-            joined(one, other)
-        self.assertIs(type(caught.exception), TooBig)
-        self.assertEqual((one, other), handed)
+class JoinedTest(MadeCase):
+    make = staticmethod(joined)
 
     def test_the_trays_of_the_one_then_those_of_the_other(self):
-        self.assert_joined((2, 0), (1,), (2, 0, 1))
-        self.assert_joined((1,), (2, 0), (1, 2, 0))
+        self.assert_made((2, 0), (1,), (2, 0, 1))
+        self.assert_made((1,), (2, 0), (1, 2, 0))
         for one, other in product(HALVES, repeat=2):
-            self.assert_joined(one, other, tuple(list(one) + list(other)))
+            self.assert_made(one, other, tuple(list(one) + list(other)))
 
     def test_without_trays(self):
-        self.assert_joined((), (), ())
-        self.assert_joined((), (3,), (3,))
-        self.assert_joined((3,), (), (3,))
-        self.assert_joined(FULL, (), FULL)
-        self.assert_joined((), FULL, FULL)
+        self.assert_made((), (), ())
+        self.assert_made((), (3,), (3,))
+        self.assert_made((3,), (), (3,))
+        self.assert_made(FULL, (), FULL)
+        self.assert_made((), FULL, FULL)
 
     def test_exactly_sixty_trays_and_one_more(self):
         for trays in range(61):
             one, other = (12,) * trays, (0,) * (60 - trays)
-            self.assert_joined(one, other, one + other)
+            self.assert_made(one, other, one + other)
             if trays:
                 self.assert_refused(one, other + (0,))
             if trays < 60:

@@ -150,6 +150,13 @@ class IsWayTest(WayCase):
         self.assert_no_way(self.ONE[:3], self.OTHER, self.WAY)
         self.assert_way(self.ONE, self.OTHER + (5,), self.WAY)
 
+    def test_between_what_is_no_crate(self):
+        for wrong in NEITHER + ((0,) * 61, (13,), (0, True), [0]):
+            for thing in ((), ((0, ()),), ((0, ()),) * 61, None):
+                self.assert_no_way(wrong, (0,), thing)
+                self.assert_no_way((0,), wrong, thing)
+                self.assert_no_way((), wrong, thing)
+
     def test_of_anything(self):
         for one in ((0,), (1,), (1, 2), self.ONE, FULL):
             for other in ((0,), (1,), (1, 2), self.OTHER, FULL):
