@@ -2,6 +2,7 @@
 
 import copy
 import random
+import time
 import unittest
 from itertools import product
 
@@ -9,6 +10,7 @@ from traymap.crates import is_crate
 from traymap.errors import TooBig
 
 THOUSAND_FIGURES = 10 ** 999
+FRACTION_OF_A_SECOND = 0.5
 
 # One of each sort that "of anything" names, none of them a crate, a filling or a way.
 NEITHER = (
@@ -122,5 +124,39 @@ class MadeCase(unittest.TestCase):
         handed = copy.deepcopy((one, other))
         with self.assertRaises(TooBig) as caught:
             self.make(one, other)
+        self.assertIs(type(caught.exception), TooBig)
+        self.assertEqual((one, other), handed)
+
+
+class RowsCase(MadeCase):
+    """Those of such a function beside another, rows, that lists for what the trays stand and refuses alike."""
+
+    rows = None
+
+    def due_rows(self, one, other):
+        """The rows, listed without the package."""
+        raise NotImplementedError
+
+    def assert_made(self, one, other, due):
+        super().assert_made(one, other, due)
+        due_rows = self.due_rows(one, other)
+        listed = self.rows(one, other)
+        self.assertIs(type(listed), list)
+        self.assertEqual(repr(listed), repr(due_rows))
+        self.assertEqual(listed, sorted(listed))
+        self.assertEqual(len(listed), len(due))
+        # Changed, it changes nothing that is told later.
+        listed.append(listed[:1])
+        listed.reverse()
+        self.assertEqual(self.rows(one, other), due_rows)
+        super().assert_made(one, other, due)
+
+    def assert_refused(self, one, other):
+        handed = copy.deepcopy((one, other))
+        start = time.process_time()
+        super().assert_refused(one, other)
+        with self.assertRaises(TooBig) as caught:
+            self.rows(one, other)
+        self.assertLess(time.process_time() - start, FRACTION_OF_A_SECOND)
         self.assertIs(type(caught.exception), TooBig)
         self.assertEqual((one, other), handed)

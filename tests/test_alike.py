@@ -6,13 +6,11 @@ import time
 import unittest
 from itertools import product
 
-from samples import FULL, LARGE_CRATES, TINY_CRATES, every_way, some_ways
+from samples import FRACTION_OF_A_SECOND, FULL, LARGE_CRATES, TINY_CRATES, every_way, some_ways
 from traymap.alike import crates_alike, parting
 from traymap.crates import is_filling
 from traymap.fillings import how_many
 from traymap.ways import after, idle, is_way, turned
-
-FRACTION_OF_A_SECOND = 0.5
 
 
 class PartingTest(unittest.TestCase):

@@ -6,13 +6,12 @@ import time
 import unittest
 from itertools import product
 
-from samples import FULL, LARGE_CRATES, THOUSAND_FIGURES, TINY_CRATES, every_way, some_ways
+from samples import FRACTION_OF_A_SECOND, FULL, LARGE_CRATES, THOUSAND_FIGURES, TINY_CRATES
+from samples import every_way, some_ways
 from traymap.counting import number_of, way_at, ways_many
 from traymap.errors import NoNumber
 from traymap.fillings import all_fillings, how_many
 from traymap.ways import idle, is_way
-
-FRACTION_OF_A_SECOND = 0.5
 
 
 class WaysManyTest(unittest.TestCase):

@@ -51,6 +51,21 @@ INTERFACE = {
         "to_right": ["one", "other"],
         "paired_way": ["one", "other", "way", "other_way"],
     },
+    "layers": {
+        "put": ["outer", "inner"],
+        "tray_rows": ["outer", "inner"],
+        "packed": ["outer", "inner", "filling"],
+        "unpacked": ["outer", "inner", "filling"],
+    },
+    "within": {
+        "put_way": ["outers", "inners", "way", "inner_way"],
+        "regrouped": ["first", "second", "third"],
+    },
+    "parts": {
+        "keeps_trays": ["way"],
+        "keeps_wells": ["one", "way"],
+        "parts": ["one", "other", "way"],
+    },
 }
 
 # L17: words that stand nowhere, comments and strings included.
