@@ -67,6 +67,9 @@ THINGS = (
 # Between any two of these, all ways can be listed.
 TINY_CRATES = ((), (0,), (1,), (2,), (3,), (0, 0), (0, 1), (1, 1), (2, 0), (1, 2), (0, 2, 1), (1, 1, 1))
 
+# Put in a crate, or a crate put in it, it changes nothing.
+SINGLE = (1,)
+
 FULL = (12,) * 60
 LARGE_CRATES = (FULL, tuple(range(13)), (12,), (0,) * 60, (1,) * 60, (0, 12) * 30, (5, 0, 12, 1, 7) * 12)
 

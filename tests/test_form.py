@@ -7,7 +7,7 @@ from pathlib import Path
 
 PACKAGE = Path(__file__).resolve().parent.parent / "traymap"
 
-# What has landed of the interface: file, then name and parameters (None for a class).
+# The interface: file, then name and parameters (None for a class).
 INTERFACE = {
     "errors": {
         "TrayError": None,
@@ -66,7 +66,25 @@ INTERFACE = {
         "keeps_wells": ["one", "way"],
         "parts": ["one", "other", "way"],
     },
+    "powers": {
+        "power": ["upper", "lower"],
+        "power_rows": ["upper", "lower"],
+        "into_power": ["one", "lower", "upper", "way"],
+        "out_of_power": ["one", "lower", "upper", "way"],
+        "from_power": ["upper", "lower"],
+    },
+    "keepers": {"is_keeper": ["thing"], "held": ["keeper"]},
+    "texts": {
+        "show_crate": ["crate"],
+        "show_way": ["way"],
+        "read_crate": ["text"],
+        "read_way": ["one", "other", "text"],
+    },
+    "desk": {"Desk": None},
 }
+
+# The methods that it lists, by file and class.
+METHODS = {("desk", "Desk"): {"say": ["self", "row"]}}
 
 # L17: words that stand nowhere, comments and strings included.
 BARRED_WORDS = (
@@ -120,20 +138,35 @@ def defined_names(tree):
     return names
 
 
+def definitions(body):
+    """The functions of a file or class with their parameters, and its classes with None."""
+    defined = {}
+    for node in body:
+        if isinstance(node, ast.FunctionDef):
+            defined[node.name] = [arg.arg for arg in node.args.args]
+        elif isinstance(node, ast.ClassDef):
+            defined[node.name] = None
+    return defined
+
+
 class InterfaceTest(unittest.TestCase):
     def test_defined_in_its_own_file(self):
         for file_name, listed in INTERFACE.items():
             tree = ast.parse((PACKAGE / f"{file_name}.py").read_text("utf-8"))
-            defined = {}
-            for node in tree.body:
-                if isinstance(node, ast.FunctionDef):
-                    defined[node.name] = [arg.arg for arg in node.args.args]
-                elif isinstance(node, ast.ClassDef):
-                    defined[node.name] = None
+            defined = definitions(tree.body)
             for name, parameters in listed.items():
                 with self.subTest(file=file_name, name=name):
                     self.assertIn(name, defined)
                     self.assertEqual(defined[name], parameters)
+
+    def test_methods_are_defined_in_their_own_class(self):
+        for (file_name, class_name), listed in METHODS.items():
+            tree = ast.parse((PACKAGE / f"{file_name}.py").read_text("utf-8"))
+            for node in tree.body:
+                if isinstance(node, ast.ClassDef) and node.name == class_name:
+                    defined = definitions(node.body)
+                    for name, parameters in listed.items():
+                        self.assertEqual(defined.get(name), parameters)
 
 
 class FormTest(unittest.TestCase):

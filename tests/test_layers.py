@@ -5,12 +5,10 @@ import random
 import unittest
 from itertools import product
 
-from samples import FULL, LARGE_CRATES, THINGS, TINY_CRATES, RowsCase, some_filling
+from samples import FULL, LARGE_CRATES, SINGLE, THINGS, TINY_CRATES, RowsCase, some_filling
 from traymap.crates import is_filling
 from traymap.fillings import all_fillings, how_many, plain
 from traymap.layers import packed, put, tray_rows, unpacked
-
-SINGLE = (1,)
 
 # Outer and inner crates beyond the tiny ones whose crate put together is just within the bounds.
 JUST_WITHIN = (

@@ -5,13 +5,12 @@ import random
 import unittest
 from itertools import product
 
-from samples import FULL, TINY_CRATES, every_way, some_filling, some_way, some_ways
+from samples import FULL, SINGLE, TINY_CRATES, every_way, some_filling, some_way, some_ways
 from traymap.errors import TooBig
 from traymap.layers import packed, put, tray_rows, unpacked
 from traymap.ways import after, idle, is_way, turned
 from traymap.within import put_way, regrouped
 
-SINGLE = (1,)
 OUTERS = ((), (0,), (1,), (2,), (0, 1), (1, 2), (2, 0), (0, 2, 1))
 INNERS = ((), (0,), (1,), (2,), (0, 0), (2, 1), (0, 3, 1))
 
